@@ -1,0 +1,98 @@
+package make
+
+import (
+	"slices"
+	"strings"
+
+	"windlass/api"
+	"windlass/path"
+	"windlass/tree"
+	"windlass/walk"
+)
+
+const (
+	change  = 3    // the bits of a directory's Mode that are asked for to give it names
+	maxKids = 1024 // names of a directory
+)
+
+// spot is where a new name is to stand: a directory, and the name.
+type spot struct {
+	dir   int
+	name  string
+	slash bool // its path ends with one, which asks for a directory
+}
+
+// newName is the spot of a path's new name.
+func newName(t api.Tree, cwd int, p string) (spot, api.Errno) {
+	dir, name, err := walk.Parent(t, cwd, p)
+	switch {
+	case err != api.OK:
+		return spot{}, err
+	case name == "." || name == ".." || tree.Kid(t, dir, name) >= 0:
+		return spot{}, api.ErrThere
+	case !path.Name(name):
+		return spot{}, api.ErrInval
+	case !walk.May(t, dir, change):
+		return spot{}, api.ErrAccess
+	}
+	return spot{dir, name, strings.HasSuffix(p, "/")}, api.OK
+}
+
+// refuses is the error of an inode of a kind that is to have the name.
+func (s spot) refuses(t api.Tree, kind int) api.Errno {
+	if s.slash && kind != api.InDir {
+		return api.ErrNotDir
+	}
+	if len(t.Nodes[s.dir].Kids) >= maxKids {
+		return api.ErrSpace
+	}
+	return api.OK
+}
+
+// give gives the name to an inode of a tree that is one's own, where the order by bytes has it.
+func (s spot) give(made api.Tree, ino int) {
+	dir := &made.Nodes[s.dir]
+	i, _ := slices.BinarySearchFunc(dir.Kids, s.name, func(e api.Entry, name string) int {
+		return strings.Compare(e.Name, name)
+	})
+	dir.Kids = slices.Insert(dir.Kids, i, api.Entry{Name: s.name, Ino: ino})
+	made.Nodes[ino].Links++
+}
+
+// add makes an inode and its name at a path: what is told of the directory that it is to be in.
+func add(t api.Tree, cwd int, p string, inode func(up int) api.Inode) (api.Tree, int, api.Errno) {
+	made := copied(t)
+	at, err := newName(t, cwd, p)
+	if err != api.OK {
+		return made, 0, err
+	}
+	n := inode(at.dir)
+	if err := at.refuses(t, n.Kind); err != api.OK {
+		return made, 0, err
+	}
+	ino := slices.IndexFunc(t.Nodes, isFree)
+	if ino < 0 || !hasRoom(t, len(n.Data)) {
+		return made, 0, api.ErrSpace
+	}
+	made.Nodes[ino] = n
+	at.give(made, ino)
+	return made, ino, api.OK
+}
+
+// isFree tells whether an inode is free.
+func isFree(n api.Inode) bool { return n.Kind == api.InFree }
+
+// hasRoom tells whether so many bytes more find room in a tree.
+func hasRoom(t api.Tree, more int) bool {
+	_, bytes := tree.Used(t)
+	return bytes+more <= t.MaxBytes
+}
+
+// copied is a tree that is like another one and shares nothing with it.
+func copied(t api.Tree) api.Tree {
+	t.Nodes = slices.Clone(t.Nodes)
+	for i := range t.Nodes {
+		t.Nodes[i].Kids = slices.Clone(t.Nodes[i].Kids)
+	}
+	return t
+}
