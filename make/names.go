@@ -5,14 +5,10 @@ import (
 	"strings"
 
 	"windlass/api"
+	"windlass/nodes"
 	"windlass/path"
 	"windlass/tree"
 	"windlass/walk"
-)
-
-const (
-	change  = 3    // the bits of a directory's Mode that are asked for to give it names
-	maxKids = 1024 // names of a directory
 )
 
 // spot is where a new name is to stand: a directory, and the name.
@@ -32,7 +28,7 @@ func newName(t api.Tree, cwd int, p string) (spot, api.Errno) {
 		return spot{}, api.ErrThere
 	case !path.Name(name):
 		return spot{}, api.ErrInval
-	case !walk.May(t, dir, change):
+	case !walk.May(t, dir, nodes.Change):
 		return spot{}, api.ErrAccess
 	}
 	return spot{dir, name, strings.HasSuffix(p, "/")}, api.OK
@@ -43,25 +39,22 @@ func (s spot) refuses(t api.Tree, kind int) api.Errno {
 	if s.slash && kind != api.InDir {
 		return api.ErrNotDir
 	}
-	if len(t.Nodes[s.dir].Kids) >= maxKids {
+	if len(t.Nodes[s.dir].Kids) >= nodes.MaxKids {
 		return api.ErrSpace
 	}
 	return api.OK
 }
 
-// give gives the name to an inode of a tree that is one's own, where the order by bytes has it.
+// give gives the name to an inode of a tree that is one's own.
 func (s spot) give(made api.Tree, ino int) {
 	dir := &made.Nodes[s.dir]
-	i, _ := slices.BinarySearchFunc(dir.Kids, s.name, func(e api.Entry, name string) int {
-		return strings.Compare(e.Name, name)
-	})
-	dir.Kids = slices.Insert(dir.Kids, i, api.Entry{Name: s.name, Ino: ino})
+	dir.Kids = nodes.With(dir.Kids, s.name, ino)
 	made.Nodes[ino].Links++
 }
 
 // add makes an inode and its name at a path: what is told of the directory that it is to be in.
 func add(t api.Tree, cwd int, p string, inode func(up int) api.Inode) (api.Tree, int, api.Errno) {
-	made := copied(t)
+	made := nodes.Copy(t)
 	at, err := newName(t, cwd, p)
 	if err != api.OK {
 		return made, 0, err
@@ -86,13 +79,4 @@ func isFree(n api.Inode) bool { return n.Kind == api.InFree }
 func hasRoom(t api.Tree, more int) bool {
 	_, bytes := tree.Used(t)
 	return bytes+more <= t.MaxBytes
-}
-
-// copied is a tree that is like another one and shares nothing with it.
-func copied(t api.Tree) api.Tree {
-	t.Nodes = slices.Clone(t.Nodes)
-	for i := range t.Nodes {
-		t.Nodes[i].Kids = slices.Clone(t.Nodes[i].Kids)
-	}
-	return t
 }
