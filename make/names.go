@@ -64,7 +64,7 @@ func add(t api.Tree, cwd int, p string, inode func(up int) api.Inode) (api.Tree,
 		return made, 0, err
 	}
 	ino := slices.IndexFunc(t.Nodes, isFree)
-	if ino < 0 || !hasRoom(t, len(n.Data)) {
+	if ino < 0 || !nodes.HasRoom(t, len(n.Data)) {
 		return made, 0, api.ErrSpace
 	}
 	made.Nodes[ino] = n
@@ -74,9 +74,3 @@ func add(t api.Tree, cwd int, p string, inode func(up int) api.Inode) (api.Tree,
 
 // isFree tells whether an inode is free.
 func isFree(n api.Inode) bool { return n.Kind == api.InFree }
-
-// hasRoom tells whether so many bytes more find room in a tree.
-func hasRoom(t api.Tree, more int) bool {
-	_, bytes := tree.Used(t)
-	return bytes+more <= t.MaxBytes
-}

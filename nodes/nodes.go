@@ -1,4 +1,4 @@
-// Package nodes is what the layers that change trees have in common: copies of trees, and the names of a directory.
+// Package nodes is what the layers that change trees have in common: copies of trees, room in them, and the names of a directory.
 package nodes
 
 import (
@@ -6,6 +6,7 @@ import (
 	"strings"
 
 	"windlass/api"
+	"windlass/tree"
 )
 
 const (
@@ -20,6 +21,12 @@ func Copy(t api.Tree) api.Tree {
 		t.Nodes[i].Kids = slices.Clone(t.Nodes[i].Kids)
 	}
 	return t
+}
+
+// HasRoom tells whether so many bytes more find room in a tree.
+func HasRoom(t api.Tree, more int) bool {
+	_, bytes := tree.Used(t)
+	return bytes+more <= t.MaxBytes
 }
 
 // With is a directory's names and one more, which stands where the order by bytes has it.

@@ -94,3 +94,25 @@ func TestWithout(t *testing.T) {
 		t.Errorf("Without one of none = %v", made)
 	}
 }
+
+// P5.2, P7.2, P7.3: room is asked of all bytes that a tree has, files' and links'; fewer bytes are a number below 0.
+func TestHasRoom(t *testing.T) {
+	s := api.Tree{
+		Nodes: []api.Inode{
+			{Kind: api.InDir, Mode: 7, Kids: entries("a", "b")},
+			{Kind: api.InFile, Mode: 6, Links: 1, Data: "text"},
+			{Kind: api.InLink, Mode: 7, Links: 1, Data: "to"},
+			{},
+		},
+		MaxNodes: 4, MaxBytes: 10,
+	}
+	for more, want := range map[int]bool{-6: true, -1: true, 0: true, 1: true, 3: true, 4: true, 5: false, 100: false} {
+		if nodes.HasRoom(s, more) != want {
+			t.Errorf("HasRoom(%d) = %v", more, !want)
+		}
+	}
+	s.MaxBytes = 6
+	if !nodes.HasRoom(s, 0) || nodes.HasRoom(s, 1) {
+		t.Error("HasRoom of a full tree")
+	}
+}
