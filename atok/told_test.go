@@ -81,7 +81,7 @@ func TestAllShortTexts(t *testing.T) {
 	t.Parallel()
 	met := map[api.Errno]int{}
 	rows := []string{""}
-	for range 5 {
+	for range 6 {
 		var next []string
 		for _, s := range rows {
 			_, err := asTold(t, s)
